@@ -314,21 +314,26 @@ func TestLimitOfBindings(t *testing.T) {
 	}
 }
 
-func TestBoundNames(t *testing.T) {
-	variable := regexp.MustCompile(`^[A-Z][a-z0-9]{0,3}$`)
+var variableName = regexp.MustCompile(`^[A-Z][a-z0-9]{0,3}$`)
+
+// possibleNames lists variable names and many strings that are almost like one.
+func possibleNames() []string {
 	list := append(stringsOver("aZ0_=", 5), reservedWords...)
 	for c := range 256 {
 		s := string([]byte{byte(c)})
 		list = append(list, s, s+"a", "X"+s, "Xab"+s, "Xabc"+s, "X"+s+"b")
 	}
-	list = append(list, strings.Repeat("X", 5000), "X"+strings.Repeat("x", 5000), "X:=a", "X;", "f(X)")
-	for _, name := range list {
+	return append(list, strings.Repeat("X", 5000), "X"+strings.Repeat("x", 5000), "X:=a", "X;", "f(X)")
+}
+
+func TestBoundNames(t *testing.T) {
+	for _, name := range possibleNames() {
 		for _, e := range []impl.Term{node("a"), node("f", node("Zzzz"))} {
-			if impl.IsValidSubstitution(subOf(bind(name, e))) != variable.MatchString(name) {
+			if impl.IsValidSubstitution(subOf(bind(name, e))) != variableName.MatchString(name) {
 				t.Fatalf("the name %q is bound", name)
 			}
 		}
-		if name != "A" && name != "Zzz9" && impl.IsValidSubstitution(subOf(bind("A", node("a")), bind(name, node("a")), bind("Zzz9", node("a")))) != (variable.MatchString(name) && name > "A") {
+		if name != "A" && name != "Zzz9" && impl.IsValidSubstitution(subOf(bind("A", node("a")), bind(name, node("a")), bind("Zzz9", node("a")))) != (variableName.MatchString(name) && name > "A") {
 			t.Fatalf("the name %q is bound between two others", name)
 		}
 	}

@@ -210,26 +210,31 @@ func (m model) value(e impl.Term, assignment map[string]int) int {
 	if isVariable(e) {
 		return assignment[e.Name]
 	}
+	return int(m.meaning(e, assignment) % uint64(m.size))
+}
+
+// meaning is a number that depends on the model, the symbol at the root of e and the values of the
+// arguments.
+func (m model) meaning(e impl.Term, assignment map[string]int) uint64 {
 	text := strconv.Itoa(m.number) + e.Name
 	for _, arg := range e.Args {
 		text += "," + strconv.Itoa(m.value(arg, assignment))
 	}
 	h := fnv.New64a()
 	h.Write([]byte(text))
-	return int(h.Sum64() >> 20 % uint64(m.size))
+	// The last byte of the text hardly changes most bits of the sum.
+	sum := h.Sum64()
+	sum = (sum ^ sum>>33) * 0xff51afd7ed558ccd
+	sum = (sum ^ sum>>33) * 0xc4ceb9fe1a85ec53
+	return sum >> 33
 }
 
 func (m model) satisfies(l impl.Literal, assignment map[string]int) bool {
 	if l.Atom.Name == "=" {
 		return l.Positive == (m.value(l.Atom.Args[0], assignment) == m.value(l.Atom.Args[1], assignment))
 	}
-	// A predicate holds for half of the arguments.
-	two := model{2, m.number}
-	text := impl.Term{Name: "is_" + l.Atom.Name}
-	for _, arg := range l.Atom.Args {
-		text.Args = append(text.Args, node("e"+strconv.Itoa(m.value(arg, assignment))))
-	}
-	return l.Positive == (two.value(text, nil) == 0)
+	// A predicate holds for about half of the arguments.
+	return l.Positive == (m.meaning(node("is_"+l.Atom.Name, l.Atom.Args...), assignment)%2 == 0)
 }
 
 // isTrue reports whether the clause holds for all elements for its variables.

@@ -1026,6 +1026,65 @@ func TestManySkolemNames(t *testing.T) {
 	}
 }
 
+// skolemNames lists all symbol names sk1, sk2, ... without those of the given numbers.
+func skolemNames(without ...int) []string {
+	list := []string{}
+	for i := 1; i <= 9999; i++ {
+		if !slices.Contains(without, i) {
+			list = append(list, "sk"+strconv.Itoa(i))
+		}
+	}
+	return list
+}
+
+func TestSkolemizeWithoutNames(t *testing.T) {
+	none, first, last, two := skolemNames(), skolemNames(1), skolemNames(9999), skolemNames(7, 5000)
+	for _, c := range []struct {
+		f    string
+		used []string
+		want string
+	}{
+		// A name that is not valid is in no result where the variable does not occur.
+		{"some X.r", none, "r"}, {"some X.~r", none, "~r"}, {"some X.true", none, "true"}, {"some X.false", none, "false"}, {"some X.some Y.r", none, "r"}, {"some X.p(Y)", none, "p(Y)"}, {"all X.some Y.p(X)", none, "all X.p(X)"}, {"some X.all Y.p(Y)", none, "all Y.p(Y)"}, {"(some X.r & (p(a) | some Y.~s))", none, "(r & (p(a) | ~s))"}, {"some X.a = b", none, "a = b"},
+		{"some X.p(X)", none, ""}, {"some X.~p(X)", none, ""}, {"some X.X = a", none, ""}, {"some X.p(f(f(X)))", none, ""}, {"all X.some Y.q(X,Y)", none, ""}, {"some X.(r | p(X))", none, ""}, {"some X.all Y.q(X,Y)", none, ""}, {"some X.some Y.p(X)", none, ""}, {"some X.some Y.p(Y)", none, ""}, {"(some X.r & some Y.p(Y))", none, ""}, {"(some Y.p(Y) | some X.r)", none, ""},
+		// Each quantifier takes a name, even if its variable does not occur.
+		{"some X.p(X)", first, "p(sk1)"}, {"some X.some Y.p(X)", first, "p(sk1)"}, {"some X.some Y.p(Y)", first, ""}, {"some X.some Y.q(X,Y)", first, ""}, {"(some X.r & some Y.p(Y))", first, ""}, {"(some Y.p(Y) | some X.r)", first, "(p(sk1) | r)"},
+		{"some X.p(X)", last, "p(sk9999)"}, {"some X.some Y.p(X)", last, "p(sk9999)"}, {"some X.some Y.p(Y)", last, ""}, {"some X.some Y.some Z.r", last, "r"}, {"all V.(some X.q(V,X) & some Y.p(V))", last, "all V.(q(V,sk9999(V)) & p(V))"},
+		{"some X.some Y.q(X,Y)", two, "q(sk7,sk5000)"}, {"some X.some Y.some Z.q(X,Y)", two, "q(sk7,sk5000)"}, {"some X.some Y.some Z.q(X,Z)", two, ""}, {"some X.some Y.p(a)", two, "p(a)"},
+		// The last name is in the formula.
+		{"some X.p(sk1)", first, "p(sk1)"}, {"some X.q(X,sk1)", first, ""}, {"(sk9999 & some X.r)", last, "(sk9999 & r)"}, {"(sk9999 & some X.p(X))", last, ""}, {"some X.some Y.r(X,sk7,a)", two, "r(sk5000,sk7,a)"}, {"some X.some Y.r(Y,sk7,a)", two, ""},
+		// Names that are too long are not used either.
+		{"some X.r", append(skolemNames(), "sk10000"), "r"}, {"some X.p(X)", append(skolemNames(), "sk10000", "sk10001"), ""},
+		// The limit of the arguments holds even where the variable does not occur.
+		{"all A.all B.all C.all D.some E.p(A)", none, "all A.all B.all C.all D.p(A)"}, {"all A.all B.all C.all D.all E.some F.p(A)", none, ""}, {"(q(A,B) & (q(C,D) & some X.r))", none, "(q(A,B) & (q(C,D) & r))"}, {"(q(A,B) & (r(C,D,E) & some X.r))", none, ""},
+	} {
+		if r, ok := checkSkolemized(t, formula(c.f), c.used...); ok != (c.want != "") || ok && formulaText(r) != c.want {
+			t.Errorf("%s becomes %s, %v instead of %s with %d names used", c.f, formulaText(r), ok, c.want, len(c.used))
+		}
+	}
+}
+
+func TestSkolemizationsWithFewNamesFollowTheDefinition(t *testing.T) {
+	counts := map[string]int{}
+	lists := [][]string{skolemNames(), skolemNames(2), skolemNames(9998, 9999)}
+	for i, f := range normalFormulas() {
+		if f = plainSeparate(f); i%3 != 0 || plainCount(f, impl.OpExists) == 0 {
+			continue
+		}
+		_, fits := plainSkolemize(f, nil)
+		_, ok := checkSkolemized(t, f, lists[i/3%len(lists)]...)
+		switch {
+		case ok:
+			counts["removed"]++
+		case fits:
+			counts["no names"]++
+		}
+	}
+	if counts["removed"] < 100 || counts["no names"] < 100 {
+		t.Error("the numbers of results are", counts)
+	}
+}
+
 // unseparated lists formulas in negation normal form that are not separated.
 func unseparated() []impl.Formula {
 	return formulaList("all X.all X.p(X)", "some X.some X.r", "all X.some X.p(X)", "(all X.p(X) & all X.p(X))", "(some X.p(X) | all X.r)", "(p(X) & all X.p(X))", "(some X.p(X) | p(X))", "all X.(p(Y) & all Y.p(X))", "(all X.r & q(Y,X))", "all X.all Y.all X.r", "(all X.all Y.r & (r | some Y.r))", "all X.(p(X) | all Z.(p(Z) & all X.p(X)))")
@@ -1774,6 +1833,50 @@ func TestSizesOfProblems(t *testing.T) {
 		if list, ok := checkProblem(t, formulaList("p"), formula("~"+text)); len(list) != 0 || ok {
 			t.Errorf("~%s gives the clauses %s, %v", text, clauseTexts(list), ok)
 		}
+	}
+}
+
+// naming lists formulas that have no clauses, and in which all the names occur.
+func naming(names []string) []impl.Formula {
+	list := []impl.Formula{}
+	for part := range slices.Chunk(names, 22*18) {
+		atoms := []impl.Formula{}
+		for few := range slices.Chunk(part, 22) {
+			atoms = append(atoms, atomic(leaves(nodes(few...)...)))
+		}
+		list = append(list, joined(impl.OpOr, constant(impl.OpTrue), joinedAll(impl.OpAnd, atoms...)))
+	}
+	return list
+}
+
+func TestProblemsWithoutNames(t *testing.T) {
+	none, one := naming(skolemNames()), naming(skolemNames(5))
+	for _, c := range []struct {
+		named  []impl.Formula
+		axioms []string
+		goal   string
+		want   string
+	}{
+		{none, []string{"some X.r"}, "r", "r; ~r"}, {none, nil, "all X.r", "~r"}, {none, []string{"all X.some Y.p(X)"}, "all Z.r", "p(X0); ~r"}, {none, []string{"(some X.r & some Y.p(a))"}, "some X.p(X)", "r; p(a); ~p(X0)"}, {none, []string{"~all X.r", "some X.s"}, "(r | some Y.s)", "~r; s; ~s"},
+		{none, []string{"some X.p(X)"}, "r", ""}, {none, nil, "all X.p(X)", ""}, {none, nil, "p(X)", ""}, {none, []string{"some X.r", "some X.p(X)"}, "r", ""}, {none, []string{"some X.some Y.p(Y)"}, "r", ""}, {none, []string{"all A.all B.all C.all D.all E.some F.r"}, "r", ""},
+		{one, []string{"some X.r", "some X.p(X)"}, "r", "r; p(sk5); ~r"}, {one, []string{"some X.p(X)", "some X.r"}, "all X.s", "p(sk5); r; ~s"}, {one, []string{"some X.some Y.p(X)"}, "r", "p(sk5); ~r"}, {one, []string{"some X.s"}, "p(X)", "s; ~p(sk5)"},
+		{one, []string{"some X.some Y.p(Y)"}, "r", ""}, {one, []string{"some X.p(X)"}, "all X.p(X)", ""}, {one, []string{"some X.p(X)", "p(sk5)"}, "r", ""}, {one, []string{"some X.r"}, "sk5", "r; ~sk5"}, {one, []string{"some X.p(X)"}, "sk5", ""},
+	} {
+		list, ok := checkProblem(t, slices.Concat(c.named, formulaList(c.axioms...)), formula(c.goal))
+		if ok != (c.want != "") || clauseTexts(list) != c.want {
+			t.Errorf("%s from %q gives the clauses %s, %v instead of %s", c.goal, c.axioms, clauseTexts(list), ok, c.want)
+		}
+	}
+	// Each name has an axiom of its own.
+	axioms := []impl.Formula{}
+	for _, name := range skolemNames() {
+		axioms = append(axioms, formula("("+name+" | ~"+name+")"))
+	}
+	if list, ok := impl.ClausifyProblem(append(axioms, formula("some X.r")), formula("r")); clauseTexts(list) != "r; ~r" || !ok {
+		t.Errorf("with 9999 axioms: %s, %v", clauseTexts(list), ok)
+	}
+	if list, ok := impl.ClausifyProblem(append(axioms, formula("some X.p(X)")), formula("r")); len(list) != 0 || ok {
+		t.Errorf("with 9999 axioms and an occurrence: %s, %v", clauseTexts(list), ok)
 	}
 }
 
